@@ -1,0 +1,19 @@
+package tests
+
+import (
+	"testing"
+
+	"loop.example/pergola/impl"
+)
+
+// The table of limits, kinds and codes of chapters 1 and 2.
+func TestConstants(t *testing.T) {
+	for i, c := range [][2]int{{impl.TextMax, 40}, {impl.ListMax, 12}, {impl.DeepMax, 6}, {impl.NumMax, 2147483647}, {impl.JsonMax, 2000}, {impl.DefMax, 10}, {impl.FieldMax, 8}, {impl.ArgMax, 4},
+		{impl.IsNull, 0}, {impl.IsBool, 1}, {impl.IsNum, 2}, {impl.IsText, 3}, {impl.IsList, 4}, {impl.IsTree, 5}, {impl.IsVar, 6}, {impl.IsWord, 7},
+		{impl.DefObject, 1}, {impl.DefEnum, 2}, {impl.DefInput, 3}, {impl.DefUnion, 4},
+		{impl.SchemaFine, 0}, {impl.SchemaForm, 1}, {impl.SchemaTwice, 2}, {impl.SchemaNone, 3}, {impl.SchemaPlace, 4}, {impl.SchemaRoot, 5}, {impl.SchemaElse, 6}, {impl.SchemaRound, 7}} {
+		if c[0] != c[1] {
+			t.Errorf("%d: %d, not %d", i, c[0], c[1])
+		}
+	}
+}

@@ -1,0 +1,148 @@
+package tests
+
+import (
+	"math/rand"
+	"reflect"
+	"slices"
+	"strings"
+	"testing"
+
+	"loop.example/pergola/impl"
+)
+
+func null() impl.Value { return impl.Value{} }
+
+func yes(is bool) impl.Value {
+	if is {
+		return impl.Value{Kind: impl.IsBool, Num: 1}
+	}
+	return impl.Value{Kind: impl.IsBool}
+}
+
+func num(n int) impl.Value      { return impl.Value{Kind: impl.IsNum, Num: n} }
+func text(s string) impl.Value  { return impl.Value{Kind: impl.IsText, Text: s} }
+func named(s string) impl.Value { return impl.Value{Kind: impl.IsVar, Text: s} }
+func word(s string) impl.Value  { return impl.Value{Kind: impl.IsWord, Text: s} }
+
+func list(within ...impl.Value) impl.Value {
+	return impl.Value{Kind: impl.IsList, List: within}
+}
+
+// tree takes names with blanks between, and a value for each.
+func tree(names string, within ...impl.Value) impl.Value {
+	return impl.Value{Kind: impl.IsTree, Names: strings.Fields(names), List: within}
+}
+
+// nested puts a value into so many lists.
+func nested(v impl.Value, times int) impl.Value {
+	for range times {
+		v = list(v)
+	}
+	return v
+}
+
+// many is so many numbers.
+func many(count int) []impl.Value {
+	out := make([]impl.Value, count)
+	for i := range out {
+		out[i] = num(i)
+	}
+	return out
+}
+
+// manyNames is so many names, each another one.
+func manyNames(count int) []string {
+	out := make([]string, count)
+	for i := range out {
+		out[i] = "n" + string(rune('a'+i))
+	}
+	return out
+}
+
+// endless is a list that holds itself, so many times.
+func endless(wide int) impl.Value {
+	within := make([]impl.Value, wide)
+	for i := range within {
+		within[i] = list(within...)
+	}
+	return list(within...)
+}
+
+// flat makes nil and empty lists alike, so that values can be held against each other by reflect.
+func flat(v impl.Value) impl.Value {
+	out := impl.Value{Kind: v.Kind, Num: v.Num, Text: v.Text}
+	for _, x := range v.List {
+		out.List = append(out.List, flat(x))
+	}
+	out.Names = append(out.Names, v.Names...)
+	return out
+}
+
+func alike(a impl.Value, b impl.Value) bool {
+	return reflect.DeepEqual(flat(a), flat(b))
+}
+
+// anyText is a text of few or as many bytes as may be, of all bytes.
+func anyText(r *rand.Rand) string {
+	b := make([]byte, r.Intn(impl.TextMax+1))
+	for i := range b {
+		b[i] = byte(r.Intn(256))
+	}
+	return string(b)
+}
+
+// anyValue is a value that is ok, at most so deep.
+func anyValue(r *rand.Rand, deep int) impl.Value {
+	kind := r.Intn(6)
+	if deep < 2 {
+		kind = r.Intn(4)
+	}
+	switch kind {
+	case impl.IsBool:
+		return yes(r.Intn(2) == 1)
+	case impl.IsNum:
+		return num(r.Intn(2*impl.NumMax+1) - impl.NumMax)
+	case impl.IsText:
+		return text(anyText(r))
+	case impl.IsList, impl.IsTree:
+		v := impl.Value{Kind: kind}
+		for range r.Intn(4) {
+			v.List = append(v.List, anyValue(r, deep-1))
+		}
+		if kind == impl.IsTree {
+			v.Names = manyNames(len(v.List))
+		}
+		return v
+	}
+	return null()
+}
+
+// someValues is values that are ok, of each kind, some at random (always the same ones).
+func someValues() []impl.Value {
+	out := []impl.Value{null(), yes(false), yes(true), num(0), num(1), num(-1), num(impl.NumMax), num(-impl.NumMax),
+		text(""), text("a"), text("1"), text("null"), text("true"), text(`"\/`), text("\x00\n\t\x1f \x7e\x7f\x80\xff"),
+		list(), tree(""), list(null()), tree("a", null()), list(num(1), num(2)), list(num(2), num(1)),
+		tree("a b", num(1), num(2)), tree("b a", num(1), num(2)), tree("b a", num(2), num(1)),
+		list(list(), tree("")), tree("a b", list(), tree("a", num(1)))}
+	r := rand.New(rand.NewSource(1))
+	for range 300 {
+		out = append(out, anyValue(r, impl.DeepMax))
+	}
+	return out
+}
+
+// withRoom is the list with a mark behind its end, and whether the mark is still there.
+func withRoom[T any](list []T, mark T) ([]T, func() bool) {
+	wide := append(slices.Clone(list), mark)
+	before := slices.Clone(wide)
+	return wide[:len(list)], func() bool { return reflect.DeepEqual(wide, before) }
+}
+
+func mustType(t *testing.T, s string) impl.Type {
+	t.Helper()
+	x, ok := impl.TypeGet(s)
+	if !ok {
+		t.Fatalf("no type: %q", s)
+	}
+	return x
+}
