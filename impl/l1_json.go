@@ -273,7 +273,7 @@ func hasJustItsParts(v Value) bool {
 		(hasList || len(v.List) == 0) && (hasNames || len(v.Names) == 0)
 }
 
-func listFormOf(v Value, deep int, asked bool) (form, bool) {
+func listFormOf(v Value, deep int, asked bool) (listForm, bool) {
 	if len(v.List) > ListMax {
 		return nil, false
 	}
@@ -288,16 +288,13 @@ func listFormOf(v Value, deep int, asked bool) (form, bool) {
 	return list, true
 }
 
-func treeFormOf(v Value, deep int, asked bool) (form, bool) {
-	if len(v.List) > ListMax || len(v.Names) != len(v.List) || !namesOnce(v.Names) {
+func treeFormOf(v Value, deep int, asked bool) (treeForm, bool) {
+	list, ok := listFormOf(v, deep, asked)
+	if !ok || len(v.Names) != len(list) || !namesOnce(v.Names) {
 		return nil, false
 	}
-	tree := make(treeForm, len(v.List))
-	for i, x := range v.List {
-		f, ok := formOf(x, deep-1, asked)
-		if !ok {
-			return nil, false
-		}
+	tree := make(treeForm, len(list))
+	for i, f := range list {
 		tree[i] = branch{v.Names[i], f}
 	}
 	return tree, true
