@@ -2,6 +2,7 @@
 package impl
 
 import (
+	"math"
 	"slices"
 	"strconv"
 	"strings"
@@ -37,9 +38,6 @@ type Value struct {
 	Names []string
 }
 
-// walkMax ends a walk through a value that holds itself; no value that is ok holds so many.
-const walkMax = 1 << 20
-
 // ValueOk says whether a value is ok, as one of an answer.
 func ValueOk(v Value) bool {
 	_, ok := formOf(v, DeepMax, false)
@@ -48,8 +46,9 @@ func ValueOk(v Value) bool {
 
 // ValueSame says whether two values are the same.
 func ValueSame(a Value, b Value) bool {
+	seen := map[[2]place]int{}
 	work := [][2][]Value{{{a}, {b}}}
-	for walked := 0; len(work) > 0 && walked < walkMax; {
+	for len(work) > 0 {
 		last := len(work) - 1
 		lists := work[last]
 		work = work[:last]
@@ -58,11 +57,15 @@ func ValueSame(a Value, b Value) bool {
 			if !sameOutside(x, y) {
 				return false
 			}
-			if len(x.List) > 0 {
+			if len(x.List) == 0 {
+				continue
+			}
+			both := [2]place{placeOf(x.List), placeOf(y.List)}
+			seen[both]++
+			if seen[both] == 1 {
 				work = append(work, [2][]Value{x.List, y.List})
 			}
 		}
-		walked += len(lists[0])
 	}
 	return true
 }
@@ -73,29 +76,87 @@ func sameOutside(a Value, b Value) bool {
 		len(a.List) == len(b.List) && slices.Equal(a.Names, b.Names)
 }
 
-// level is values that stand side by side, and how deep.
-type level struct {
-	list []Value
-	deep int
+// place is where a list lies. A list may be within many values, or within itself: by its place it is walked through only once.
+type place struct {
+	first *Value
+	size  int
 }
+
+// placeOf is the place of a list that is not empty.
+func placeOf(list []Value) place {
+	return place{&list[0], len(list)}
+}
+
+// endless is how deep a value is that holds itself.
+const endless = math.MaxInt
 
 // ValueDeep is how deep a value is: 1 if it has none within.
 func ValueDeep(v Value) int {
-	deep := 1
-	work := []level{{[]Value{v}, 1}}
-	for walked := 0; len(work) > 0 && walked < walkMax; {
-		last := len(work) - 1
-		here := work[last]
-		work = work[:last]
-		deep = max(deep, here.deep)
-		for _, x := range here.list {
-			if len(x.List) > 0 {
-				work = append(work, level{x.List, here.deep + 1})
+	w := deepWalk{path: []step{{list: []Value{v}}}, known: map[place]int{}}
+	for {
+		top := &w.path[len(w.path)-1]
+		if top.at < len(top.list) {
+			within := top.list[top.at].List
+			top.at++
+			if !w.enter(within) {
+				return endless
 			}
+			continue
 		}
-		walked += len(here.list)
+		if len(w.path) == 1 {
+			return top.deep
+		}
+		w.leave()
 	}
-	return deep
+}
+
+// deepWalk walks through lists within lists, without calling itself: they may be deeper than a stack is.
+type deepWalk struct {
+	path  []step
+	known map[place]int
+}
+
+// step is a list of the path, up to where it is walked through, and how deep the deepest of it was so far.
+type step struct {
+	list []Value
+	at   int
+	deep int
+}
+
+// onPath is known of a list that is walked through just now, in the place of how deep it is.
+const onPath = -1
+
+// enter takes a list that is within the last one of the path; false, if it is within itself.
+func (w *deepWalk) enter(within []Value) bool {
+	if len(within) == 0 {
+		w.found(0)
+		return true
+	}
+	at := placeOf(within)
+	switch deep := w.known[at]; deep {
+	case 0:
+		w.known[at] = onPath
+		w.path = append(w.path, step{list: within})
+	case onPath:
+		return false
+	default:
+		w.found(deep)
+	}
+	return true
+}
+
+// leave tells how deep the last list of the path was, which is not the first, and goes back.
+func (w *deepWalk) leave() {
+	last := w.path[len(w.path)-1]
+	w.path = w.path[:len(w.path)-1]
+	w.known[placeOf(last.list)] = last.deep
+	w.found(last.deep)
+}
+
+// found takes down that a value of the last list of the path has so many within each other.
+func (w *deepWalk) found(within int) {
+	top := &w.path[len(w.path)-1]
+	top.deep = max(top.deep, within+1)
 }
 
 // JsonPut writes a value.

@@ -133,6 +133,90 @@ func TestValueThatHoldsItself(t *testing.T) {
 	}
 }
 
+// wide is a list of so many values, nothing all of them but one, which is a list of a number.
+func wide(count int, at int, n int) impl.Value {
+	v := list(make([]impl.Value, count)...)
+	v.List[at] = list(num(n))
+	return v
+}
+
+// P1, P2: however many values are within, and wherever the one is that counts.
+func TestValuesOfManyValues(t *testing.T) {
+	const count = 1<<20 + 5
+	for _, at := range []int{0, count - 1} {
+		v := wide(count, at, 1)
+		if impl.ValueDeep(v) != 3 || impl.ValueDeep(list(v, null())) != 4 || impl.ValueDeep(list(null(), v)) != 4 {
+			t.Errorf("deep by %d", at)
+		}
+		if !impl.ValueSame(v, wide(count, at, 1)) || impl.ValueSame(v, wide(count, at, 2)) || impl.ValueSame(v, wide(count+1, at, 1)) {
+			t.Errorf("the same by %d", at)
+		}
+	}
+	const deep = 1<<20 + 3
+	one, two := nested(num(1), deep), nested(num(2), deep)
+	if impl.ValueDeep(one) != deep+1 || !impl.ValueSame(one, nested(num(1), deep)) || impl.ValueSame(one, two) {
+		t.Error("as deep")
+	}
+}
+
+// twofold is a list of twice the same list, and so on, so many times: 2 to the power of times values, in little room.
+func twofold(v impl.Value, times int) impl.Value {
+	for range times {
+		v = list(v, v)
+	}
+	return v
+}
+
+// P1, P2: a list that is within many others need not be walked through again.
+func TestValuesOfSharedLists(t *testing.T) {
+	v := twofold(num(1), 200)
+	if impl.ValueDeep(v) != 201 || impl.ValueDeep(list(num(1), list(v), v)) != 203 {
+		t.Errorf("%d deep", impl.ValueDeep(v))
+	}
+	if !impl.ValueSame(v, twofold(num(1), 200)) || impl.ValueSame(v, twofold(num(2), 200)) || impl.ValueSame(v, twofold(num(1), 199)) {
+		t.Error("the same")
+	}
+	shared := many(3)
+	part, whole := list(shared[:2]...), list(shared...)
+	if impl.ValueSame(list(part, part), list(part, whole)) || impl.ValueSame(list(whole, part), list(whole, whole)) {
+		t.Error("lists that begin in one place are not the same")
+	}
+	shared[2] = list(list())
+	if impl.ValueDeep(list(part, whole)) != 4 || impl.ValueDeep(list(whole, part)) != 4 || impl.ValueDeep(list(part, list(num(1)))) != 3 {
+		t.Error("lists that begin in one place are not as deep")
+	}
+}
+
+// ring is a list that holds itself behind so many others, each with a number.
+func ring(numbers ...int) impl.Value {
+	first := make([]impl.Value, 2)
+	v := list(first...)
+	for i := len(numbers) - 1; i > 0; i-- {
+		v = list(num(numbers[i]), v)
+	}
+	first[0], first[1] = num(numbers[0]), v
+	return list(first...)
+}
+
+// P1, P2: rings are walked through just once.
+func TestValuesOfRings(t *testing.T) {
+	for _, v := range []impl.Value{ring(1), ring(1, 2), ring(1, 2, 3), ring(make([]int, 100000)...), list(num(1), list(num(1)), ring(1, 2))} {
+		if impl.ValueDeep(v) <= impl.DeepMax || !impl.ValueSame(v, v) || impl.ValueSame(v, list(v)) || impl.ValueOk(v) {
+			t.Errorf("a ring: %d", impl.ValueDeep(v))
+		}
+	}
+	if !impl.ValueSame(ring(1), ring(1, 1)) || !impl.ValueSame(ring(1, 1, 1), ring(1, 1)) || impl.ValueSame(ring(1, 1, 1), ring(1, 2)) || impl.ValueSame(ring(1, 2), ring(2, 1)) {
+		t.Error("rings")
+	}
+	many := list()
+	for range 500 {
+		many.List = append(many.List, ring(make([]int, 500)...))
+	}
+	if impl.ValueDeep(many) <= impl.DeepMax || !impl.ValueSame(many, many) {
+		t.Error("many rings")
+	}
+}
+
 // P2: all of it is the same, in order; so both ways, and just if it is written the same.
 func TestValueSame(t *testing.T) {
 	values := someValues()
