@@ -166,7 +166,7 @@ func JsonPut(v Value) string {
 		return ""
 	}
 	var b strings.Builder
-	writeForm(&b, f)
+	writeForm(&b, f, false)
 	return b.String()
 }
 
@@ -361,8 +361,8 @@ func treeFormOf(v Value, deep int, asked bool) (treeForm, bool) {
 	return tree, true
 }
 
-// writeForm writes a form without variables and words.
-func writeForm(b *strings.Builder, f form) {
+// writeForm writes a form: as JsonPut does, or as one of a question, where names of trees have no quotes.
+func writeForm(b *strings.Builder, f form, asked bool) {
 	switch x := f.(type) {
 	case nullForm:
 		b.WriteString("null")
@@ -372,27 +372,39 @@ func writeForm(b *strings.Builder, f form) {
 		b.WriteString(strconv.Itoa(int(x)))
 	case textForm:
 		writeText(b, string(x))
+	case varForm:
+		b.WriteString("$" + string(x))
+	case wordForm:
+		b.WriteString(string(x))
 	case listForm:
-		writeAll(b, "[]", len(x), func(i int) {
-			writeForm(b, x[i])
+		writeAll(b, "[]", ",", x, func(within form) {
+			writeForm(b, within, asked)
 		})
 	case treeForm:
-		writeAll(b, "{}", len(x), func(i int) {
-			writeText(b, x[i].name)
-			b.WriteByte(':')
-			writeForm(b, x[i].form)
+		writeAll(b, "{}", ",", x, func(within branch) {
+			writeBranch(b, within, asked)
 		})
 	}
 }
 
-// writeAll writes so many with commas between, in two brackets.
-func writeAll(b *strings.Builder, brackets string, count int, write func(i int)) {
+func writeBranch(b *strings.Builder, x branch, asked bool) {
+	if asked {
+		b.WriteString(x.name)
+	} else {
+		writeText(b, x.name)
+	}
+	b.WriteByte(':')
+	writeForm(b, x.form, asked)
+}
+
+// writeAll writes each of a list, with something between, in two brackets.
+func writeAll[T any](b *strings.Builder, brackets string, between string, list []T, write func(x T)) {
 	b.WriteByte(brackets[0])
-	for i := range count {
+	for i, x := range list {
 		if i > 0 {
-			b.WriteByte(',')
+			b.WriteString(between)
 		}
-		write(i)
+		write(x)
 	}
 	b.WriteByte(brackets[1])
 }

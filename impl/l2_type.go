@@ -66,7 +66,7 @@ func TypePut(t Type) string {
 
 // TypeGet reads a type.
 func TypeGet(text string) (Type, bool) {
-	return readType(text, typeDeepMax)
+	return typeOfText(text, typeDeepMax)
 }
 
 // SchemaCheck is the first thing that is wrong with a schema, 0 if nothing is.
@@ -116,12 +116,129 @@ func ValueFits(list []Def, t Type, v Value) bool {
 
 // SchemaPut writes a schema.
 func SchemaPut(list []Def) string {
-	return ""
+	if SchemaCheck(list) != SchemaFine {
+		return ""
+	}
+	var w docWriter
+	for _, d := range list {
+		w.writeDef(d)
+		w.WriteByte('\n')
+	}
+	return w.String()
 }
 
 // SchemaGet reads a schema.
 func SchemaGet(text string) ([]Def, bool) {
-	return nil, false
+	list, ok := readWhole(text, (*docReader).readSchema)
+	if !ok || SchemaCheck(list) != SchemaFine {
+		return nil, false
+	}
+	return list, true
+}
+
+func (w *docWriter) writeDef(d Def) {
+	switch d.Kind {
+	case DefObject:
+		w.WriteString("type " + d.Name)
+		writeAll(&w.Builder, "{}", " ", d.Fields, w.writeField)
+	case DefInput:
+		w.WriteString("input " + d.Name)
+		writeAll(&w.Builder, "{}", " ", d.Fields, w.writeField)
+	case DefEnum:
+		w.WriteString("enum " + d.Name + "{" + strings.Join(d.Words, " ") + "}")
+	case DefUnion:
+		w.WriteString("union " + d.Name + "=" + strings.Join(d.Words, "|"))
+	}
+}
+
+func (w *docWriter) writeField(f Field) {
+	w.WriteString(f.Name)
+	writeSome(w, "()", ",", f.Args, w.writeArg)
+	w.WriteString(":" + typeText(f.Type))
+}
+
+func (w *docWriter) writeArg(a Arg) {
+	w.WriteString(a.Name + ":" + typeText(a.Type))
+	if a.Has {
+		w.WriteByte('=')
+		w.writeValue(a.Else)
+	}
+}
+
+func (r *docReader) readSchema() []Def {
+	var list []Def
+	for r.next() != "" {
+		list = append(list, r.readDef())
+	}
+	return list
+}
+
+func (r *docReader) readDef() Def {
+	switch {
+	case r.take("type"):
+		return r.readFields(DefObject)
+	case r.take("input"):
+		return r.readFields(DefInput)
+	case r.take("enum"):
+		return r.readEnum()
+	}
+	r.need("union")
+	return r.readUnion()
+}
+
+func (r *docReader) readFields(kind int) Def {
+	name := r.readName()
+	r.need("{")
+	return Def{Name: name, Kind: kind, Fields: readSome(r, "}", r.readField)}
+}
+
+func (r *docReader) readEnum() Def {
+	name := r.readName()
+	r.need("{")
+	return Def{Name: name, Kind: DefEnum, Words: readSome(r, "}", r.readName)}
+}
+
+func (r *docReader) readUnion() Def {
+	d := Def{Name: r.readName(), Kind: DefUnion}
+	r.need("=")
+	d.Words = append(d.Words, r.readName())
+	for r.take("|") {
+		d.Words = append(d.Words, r.readName())
+	}
+	return d
+}
+
+func (r *docReader) readField() Field {
+	f := Field{Name: r.readName()}
+	if r.take("(") {
+		f.Args = readSome(r, ")", r.readArg)
+	}
+	r.need(":")
+	f.Type = r.readType()
+	return f
+}
+
+func (r *docReader) readArg() Arg {
+	a := Arg{Name: r.readName()}
+	r.need(":")
+	a.Type = r.readType()
+	if r.take("=") {
+		a.Has, a.Else = true, r.readValue()
+	}
+	return a
+}
+
+// readType reads a type of any depth: how deep it may be is asked of what is read.
+func (r *docReader) readType() Type {
+	var t Type
+	if r.take("[") {
+		t.Of = []Type{r.readType()}
+		r.need("]")
+	} else {
+		t.Name = r.readName()
+	}
+	t.Must = r.take("!")
+	return t
 }
 
 // typeFormed says whether a type has a form, at most so deep.
@@ -147,8 +264,8 @@ func typeText(t Type) string {
 	return text
 }
 
-// readType reads a type of at most so deep.
-func readType(text string, deep int) (Type, bool) {
+// typeOfText reads a type of at most so deep; other than words, its text has no blanks within.
+func typeOfText(text string, deep int) (Type, bool) {
 	if deep < 1 {
 		return Type{}, false
 	}
@@ -161,7 +278,7 @@ func readType(text string, deep int) (Type, bool) {
 	if !opens || !ends {
 		return Type{}, false
 	}
-	of, ok := readType(within, deep-1)
+	of, ok := typeOfText(within, deep-1)
 	if !ok {
 		return Type{}, false
 	}
@@ -226,12 +343,17 @@ func fieldsFormed(fields []Field, argMax int) bool {
 func argsFormed(args []Arg) bool {
 	names := make([]string, len(args))
 	for i, a := range args {
-		if !typeFormed(a.Type, typeDeepMax) || !elseFormed(a.Has, a.Else) {
+		if !argFormed(a) {
 			return false
 		}
 		names[i] = a.Name
 	}
 	return namesOnce(names)
+}
+
+// argFormed says whether an argument, or a variable, has a form by itself.
+func argFormed(a Arg) bool {
+	return isName(a.Name) && typeFormed(a.Type, typeDeepMax) && elseFormed(a.Has, a.Else)
 }
 
 // elseFormed says whether a value may stand for what is not given: only if there is one (has) it is more than nothing.

@@ -146,3 +146,51 @@ func mustType(t *testing.T, s string) impl.Type {
 	}
 	return x
 }
+
+// bare is a copy of something in which empty lists are nil, so that documents and schemas can be held against each other by reflect.
+func bare[T any](x T) T {
+	out := reflect.New(reflect.TypeOf(x)).Elem()
+	bareInto(out, reflect.ValueOf(x))
+	return out.Interface().(T)
+}
+
+func bareInto(to reflect.Value, from reflect.Value) {
+	switch from.Kind() {
+	case reflect.Slice:
+		if from.Len() == 0 {
+			return
+		}
+		to.Set(reflect.MakeSlice(from.Type(), from.Len(), from.Len()))
+		for i := range from.Len() {
+			bareInto(to.Index(i), from.Index(i))
+		}
+	case reflect.Struct:
+		for i := range from.NumField() {
+			bareInto(to.Field(i), from.Field(i))
+		}
+	default:
+		to.Set(from)
+	}
+}
+
+func equal[T any](a T, b T) bool {
+	return reflect.DeepEqual(bare(a), bare(b))
+}
+
+// scribble writes over all lists of something, and behind their ends.
+func scribble(x reflect.Value) {
+	switch x.Kind() {
+	case reflect.Slice:
+		whole := x.Slice(0, x.Cap())
+		for i := range whole.Len() {
+			if i < x.Len() {
+				scribble(whole.Index(i))
+			}
+			whole.Index(i).SetZero()
+		}
+	case reflect.Struct:
+		for i := range x.NumField() {
+			scribble(x.Field(i))
+		}
+	}
+}

@@ -170,7 +170,7 @@ func twofold(v impl.Value, times int) impl.Value {
 // P1, P2: a list that is within many others need not be walked through again.
 func TestValuesOfSharedLists(t *testing.T) {
 	v := twofold(num(1), 200)
-	if impl.ValueDeep(v) != 201 || impl.ValueDeep(list(num(1), list(v), v)) != 203 {
+	if impl.ValueDeep(v) != 201 || impl.ValueDeep(list(num(1), list(v), v)) != 203 || impl.ValueDeep(list(v, num(1), list(num(1), v, list()))) != 203 {
 		t.Errorf("%d deep", impl.ValueDeep(v))
 	}
 	if !impl.ValueSame(v, twofold(num(1), 200)) || impl.ValueSame(v, twofold(num(2), 200)) || impl.ValueSame(v, twofold(num(1), 199)) {
