@@ -111,7 +111,7 @@ func ValueFits(list []Def, t Type, v Value) bool {
 		return false
 	}
 	s := schemaOf(list)
-	return s.givenIn(baseOf(t)) && s.taker(t)(f)
+	return s.givenIn(baseOf(t)) && s.fits(t, f)
 }
 
 // SchemaPut writes a schema.
@@ -438,7 +438,7 @@ func (s schema) hasWrongElse(d Def) bool {
 	for _, f := range d.Fields {
 		for _, a := range f.Args {
 			otherwise, ok := formOf(a.Else, elseDeepMax, true)
-			if a.Has && !(ok && s.taker(a.Type)(otherwise)) {
+			if a.Has && !(ok && s.fits(a.Type, otherwise)) {
 				return true
 			}
 		}
@@ -475,18 +475,35 @@ func (s schema) needs(d Def) []string {
 	return names
 }
 
+// fits says whether a form fits a type that has a form; a variable never does.
+func (s schema) fits(t Type, f form) bool {
+	return fitter{s, noVariable}.taker(t)(f)
+}
+
+func noVariable(name string, t Type) bool {
+	return false
+}
+
+// fitter says what fits the types of a schema, and asks variable whether a variable may stand where a type is wanted.
+type fitter struct {
+	schema   schema
+	variable func(name string, t Type) bool
+}
+
 // taker says of a form whether it fits a type that has a form; it is made of the type once, and then asked.
-func (s schema) taker(t Type) func(f form) bool {
+func (x fitter) taker(t Type) func(f form) bool {
 	var rest func(f form) bool
 	if isListType(t) {
-		rest = listTaker(s.taker(t.Of[0]))
+		rest = listTaker(x.taker(t.Of[0]))
 	} else {
-		rest = s.nameTaker(t.Name)
+		rest = x.nameTaker(t.Name)
 	}
 	return func(f form) bool {
-		switch f.(type) {
+		switch y := f.(type) {
 		case nullForm:
 			return !t.Must
+		case varForm:
+			return x.variable(string(y), t)
 		}
 		return rest(f)
 	}
@@ -497,27 +514,22 @@ func listTaker(one func(f form) bool) func(f form) bool {
 	return func(f form) bool {
 		switch x := f.(type) {
 		case listForm:
-			for _, within := range x {
-				if !one(within) {
-					return false
-				}
-			}
-			return true
+			return all(x, one)
 		}
 		return one(f)
 	}
 }
 
-// nameTaker takes what fits a name, which is not nothing.
-func (s schema) nameTaker(name string) func(f form) bool {
+// nameTaker takes what fits a name, which is not nothing, nor a variable.
+func (x fitter) nameTaker(name string) func(f form) bool {
 	if isBuiltIn(name) {
 		return func(f form) bool { return fitsBuiltIn(name, f) }
 	}
-	switch d := s[name]; d.Kind {
+	switch d := x.schema[name]; d.Kind {
 	case DefEnum:
 		return func(f form) bool { return fitsEnum(d, f) }
 	case DefInput:
-		return func(f form) bool { return s.fitsInput(d, f) }
+		return func(f form) bool { return x.fitsInput(d, f) }
 	}
 	return func(f form) bool { return false }
 }
@@ -545,7 +557,7 @@ func fitsEnum(d Def, f form) bool {
 }
 
 // fitsInput makes takers of fields only when it has values for them: an input may hold itself, and its taker would have no end.
-func (s schema) fitsInput(d Def, f form) bool {
+func (x fitter) fitsInput(d Def, f form) bool {
 	tree, ok := f.(treeForm)
 	if !ok {
 		return false
@@ -556,7 +568,7 @@ func (s schema) fitsInput(d Def, f form) bool {
 		if ok {
 			found++
 		}
-		if ok && !s.taker(field.Type)(within) || !ok && field.Type.Must {
+		if ok && !x.taker(field.Type)(within) || !ok && field.Type.Must {
 			return false
 		}
 	}
