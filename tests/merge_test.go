@@ -501,3 +501,37 @@ func TestDocsOfVeryMany(t *testing.T) {
 		}
 	}
 }
+
+// P18: two that cannot be one are found wherever they are, also where other lists are one.
+func TestDocMergeAnywhere(t *testing.T) {
+	list := readSchema(t, "type Query{q:Query a:Int b:Int}")
+	for _, names := range []string{"aabbcd", "abcdef", "aabbbc", "abcc"} {
+		end := field("a")
+		d := asks(fullSels(4, names, end)...)
+		if got := impl.DocCheck(list, d); got != impl.DocFine {
+			t.Errorf("%q: %d", names, got)
+		}
+		for _, leaf := range leaves(d.Ops[0].Sels) {
+			leaf[0].Alias, leaf[0].Name = "a", "b"
+			if got := impl.DocCheck(list, d); got != impl.DocMerge {
+				t.Fatalf("%s: %d", impl.DocPut(d), got)
+			}
+			leaf[0].Alias, leaf[0].Name = "other", "b"
+		}
+		if got := impl.DocCheck(list, d); got != impl.DocFine {
+			t.Errorf("%q: %d", names, got)
+		}
+	}
+}
+
+// leaves is all lists that have nothing within.
+func leaves(sels []impl.Sel) [][]impl.Sel {
+	if len(sels[0].Sels) == 0 {
+		return [][]impl.Sel{sels}
+	}
+	var out [][]impl.Sel
+	for _, s := range sels {
+		out = append(out, leaves(s.Sels)...)
+	}
+	return out
+}
