@@ -92,7 +92,12 @@ const endless = math.MaxInt
 
 // ValueDeep is how deep a value is: 1 if it has none within.
 func ValueDeep(v Value) int {
-	w := deepWalk{path: []step{{list: []Value{v}}}, known: map[place]int{}}
+	return measured(v, func(most int, within int) int { return max(most, within+1) })
+}
+
+// measured is a measure of a list of the value alone: from 0 on, join takes the measure of the list within each value to that of all ahead of it. It is endless of a value that holds itself.
+func measured(v Value, join func(ahead int, within int) int) int {
+	w := measurer{join: join, path: []step{{list: []Value{v}}}, known: map[place]int{}}
 	for {
 		top := &w.path[len(w.path)-1]
 		if top.at < len(top.list) {
@@ -104,59 +109,91 @@ func ValueDeep(v Value) int {
 			continue
 		}
 		if len(w.path) == 1 {
-			return top.deep
+			return top.measure
 		}
 		w.leave()
 	}
 }
 
-// deepWalk walks through lists within lists, without calling itself: they may be deeper than a stack is.
-type deepWalk struct {
+// measurer walks through lists within lists, without calling itself: they may be deeper than a stack is.
+type measurer struct {
+	join  func(ahead int, within int) int
 	path  []step
 	known map[place]int
 }
 
-// step is a list of the path, up to where it is walked through, and how deep the deepest of it was so far.
+// step is a list of the path, up to where it is walked through, and its measure up to there, which is above 0 from the first value on.
 type step struct {
-	list []Value
-	at   int
-	deep int
+	list    []Value
+	at      int
+	measure int
 }
 
-// onPath is known of a list that is walked through just now, in the place of how deep it is.
+// onPath is known of a list that is walked through just now, in the place of its measure.
 const onPath = -1
 
 // enter takes a list that is within the last one of the path; false, if it is within itself.
-func (w *deepWalk) enter(within []Value) bool {
+func (w *measurer) enter(within []Value) bool {
 	if len(within) == 0 {
 		w.found(0)
 		return true
 	}
 	at := placeOf(within)
-	switch deep := w.known[at]; deep {
+	switch measure := w.known[at]; measure {
 	case 0:
 		w.known[at] = onPath
 		w.path = append(w.path, step{list: within})
 	case onPath:
 		return false
 	default:
-		w.found(deep)
+		w.found(measure)
 	}
 	return true
 }
 
-// leave tells how deep the last list of the path was, which is not the first, and goes back.
-func (w *deepWalk) leave() {
+// leave tells the measure of the last list of the path, which is not the first, and goes back.
+func (w *measurer) leave() {
 	last := w.path[len(w.path)-1]
 	w.path = w.path[:len(w.path)-1]
-	w.known[placeOf(last.list)] = last.deep
-	w.found(last.deep)
+	w.known[placeOf(last.list)] = last.measure
+	w.found(last.measure)
 }
 
-// found takes down that a value of the last list of the path has so many within each other.
-func (w *deepWalk) found(within int) {
+// found takes down that a value of the last list of the path has a list of that measure.
+func (w *measurer) found(within int) {
 	top := &w.path[len(w.path)-1]
-	top.deep = max(top.deep, within+1)
+	top.measure = w.join(top.measure, within)
+}
+
+// unsharedMax is how many values are copied each by itself: a list may be within a value so often that nothing could hold it as often.
+const unsharedMax = 1 << 20
+
+// copied is a value of any form, in new memory. Its lists share none of it, but where there would be more than unsharedMax values: then what was one list is one.
+func copied(v Value) Value {
+	shares := measured(v, func(ahead int, within int) int { return min(ahead+within+1, unsharedMax+1) }) > unsharedMax
+	copies := map[place][]Value{}
+	whole := []Value{v}
+	work := [][]Value{whole}
+	for len(work) > 0 {
+		list := work[len(work)-1]
+		work = work[:len(work)-1]
+		for i := range list {
+			from := list[i].List
+			list[i].List, list[i].Names = nil, slices.Clone(list[i].Names)
+			if len(from) == 0 {
+				continue
+			}
+			known, ok := copies[placeOf(from)]
+			if ok && shares {
+				list[i].List = known
+				continue
+			}
+			list[i].List = slices.Clone(from)
+			copies[placeOf(from)] = list[i].List
+			work = append(work, list[i].List)
+		}
+	}
+	return whole[0]
 }
 
 // JsonPut writes a value.

@@ -18,6 +18,12 @@ const (
 	elseDeepMax = 3
 )
 
+// Objects that questions, and changes, begin with.
+const (
+	queryName  = "Query"
+	changeName = "Mutation"
+)
+
 // Kinds of what a schema has.
 const (
 	DefObject = 1
@@ -429,8 +435,8 @@ func (s schema) allNames(d Def, word, field, arg func(name string) bool) bool {
 
 // hasRoots says whether there is an object to begin with, and one for changes, if there is such a name at all.
 func (s schema) hasRoots() bool {
-	_, changes := s["Mutation"]
-	return s.isObject("Query") && (!changes || s.isObject("Mutation"))
+	_, changes := s[changeName]
+	return s.isObject(queryName) && (!changes || s.isObject(changeName))
 }
 
 // hasWrongElse says whether an argument has a value by itself that does not fit its type.

@@ -229,6 +229,8 @@ func (a rightAsker) values(typ string) []impl.Value {
 	switch typ {
 	case "Int", "Int!":
 		return []impl.Value{num(1), num(1), num(2), named("i")}
+	case "String!":
+		return []impl.Value{text("age"), text("name"), text("me"), text("1")}
 	case "K":
 		return []impl.Value{word("A"), text("A"), null(), named("k")}
 	case "In":
