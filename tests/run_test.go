@@ -537,6 +537,18 @@ func TestRunOfChangesInOrder(t *testing.T) {
 	w.changes(t, `mutation{a:m{me{age}} b:m{me{age}} set(id:2,cell:"age",value:3){__typename} c:m{me{age}}}`, "{}", `{"a":{"me":{"age":30}},"b":{"me":{"age":30}},"set":{"__typename":"P"},"c":{"me":{"age":3}}}`, "", w.with(t, 2, "age", "3").nodes)
 }
 
+// P24: what is behind a change is answered anew, also if the same was answered ahead of it: through a piece, and in a list of one node twice.
+func TestRunOfTheSameBehindChanges(t *testing.T) {
+	w := runWorld(t)
+	w.changes(t, `mutation{a:m{...F} x:m{...F} set(id:2,cell:"age",value:3){__typename} b:m{...F}} fragment F on Mutation{me{age}}`, "{}",
+		`{"a":{"me":{"age":30}},"x":{"me":{"age":30}},"set":{"__typename":"P"},"b":{"me":{"age":3}}}`, "", w.with(t, 2, "age", "3").nodes)
+	list := world{readSchema(t, "type Query{n:Int} type Mutation{l:[Mutation] set(id:Int,cell:String,value:Int):Query! n:Int q:Query}"), []impl.Node{node(t, 0, "Query", `{"n":1}`), node(t, 1, "Mutation", `{"l":[{"ref":1},{"ref":1}],"q":{"ref":0},"n":5}`)}}
+	list.changes(t, `mutation{l{q{n} a:set(id:0,cell:"n",value:2){n} n b:set(id:1,cell:"n",value:6){n}}}`, "{}", `{"l":[null,null]}`, "l.0.b:1 l.1.b:1", list.with(t, 0, "n", "2").with(t, 1, "n", "6").nodes)
+	list.changes(t, `mutation{l{q{n} a:set(id:0,cell:"n",value:2){n}} q{n}}`, "{}", `{"l":[{"q":{"n":1},"a":{"n":2}},{"q":{"n":2},"a":{"n":2}}],"q":{"n":2}}`, "", list.with(t, 0, "n", "2").nodes)
+	list.changes(t, `mutation{l{q{n} a:set(id:0,cell:"n",value:2){n} b:set(id:0,cell:"n",value:3){n}}}`, "{}", `{"l":[{"q":{"n":1},"a":{"n":2},"b":{"n":3}},{"q":{"n":3},"a":{"n":2},"b":{"n":3}}]}`, "", list.with(t, 0, "n", "3").nodes)
+	list.changes(t, `mutation{set(id:1,cell:"l",value:0){n} l{n}}`, "{}", "null", "set:1 l:1", list.with(t, 1, "l", "0").nodes)
+}
+
 // P24: set is a field as others are without such arguments, of another object, and where nothing is to be changed.
 func TestRunOfOtherSets(t *testing.T) {
 	for _, args := range []string{"", "(id:Int)", "(id:Int,cell:String)", "(id:Int,cell:String,values:Int)", "(Id:Int,cell:String,value:Int)"} {
@@ -547,6 +559,8 @@ func TestRunOfOtherSets(t *testing.T) {
 		}
 		w.answers(t, `{set(id:0,cell:"set",value:9)}`, "{}", `{"set":4}`, "")
 	}
+	o := world{readSchema(t, "type Query{set(id:Int,cell:String,value:Int):Int} type Mutation{q:Query}"), []impl.Node{node(t, 0, "Query", `{"set":4}`), node(t, 1, "Mutation", `{"q":{"ref":0}}`)}}
+	o.changes(t, `mutation{q{set(id:0,cell:"set",value:9)}}`, "{}", `{"q":{"set":4}}`, "", o.nodes)
 	w := world{readSchema(t, "type Query{m:Mutation n:Int} type Mutation{set(id:Int,cell:String,value:Int):Int put(id:Int,cell:String,value:Int):Int q:Query}"),
 		[]impl.Node{node(t, 0, "Query", `{"m":{"ref":1},"n":4}`), node(t, 1, "Mutation", `{"set":5,"put":6,"q":{"ref":0}}`)}}
 	w.answers(t, `{m{set(id:0,cell:"n",value:9)} n}`, "{}", `{"m":{"set":5},"n":4}`, "")

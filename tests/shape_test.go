@@ -98,10 +98,18 @@ func TestShapeOfOthers(t *testing.T) {
 		change(&out)
 		return out
 	}
-	for what, x := range map[string]impl.Value{"a part of another kind": wrong(func(v *impl.Value) { v.Num = 1 }), "a text": wrong(func(v *impl.Value) { v.Text = "a" }), "no names": wrong(func(v *impl.Value) { v.Names = nil }), "a name more": wrong(func(v *impl.Value) { v.Names = append(v.Names, "n") }), "no value": wrong(func(v *impl.Value) { v.List = nil }),
+	for what, x := range map[string]impl.Value{"a part of another kind": wrong(func(v *impl.Value) { v.Num = 1 }), "a text": wrong(func(v *impl.Value) { v.Text = "a" }), "no names": wrong(func(v *impl.Value) { v.Names = nil }), "a name more": wrong(func(v *impl.Value) { v.Names = append(v.Names, "n") }), "no value": wrong(func(v *impl.Value) { v.List = nil }), "a value more": wrong(func(v *impl.Value) { v.List = many(2) }),
 		"nothing with a number": {Num: 1}, "nothing with a list": {List: many(1)}, "a number too great": tree("n", num(impl.NumMax+1)), "a number with a text": tree("n", impl.Value{Kind: impl.IsNum, Text: "a"}), "a variable": named("n"), "a variable within": tree("n", named("n")), "no kind": {Kind: 9}, "a name twice": tree("n n", num(1), num(1)), "endless": endless(2), "endless within": tree("n", endless(2))} {
 		if impl.ShapeOk(list, d, "a", vars, x) {
 			t.Errorf("%s is ok", what)
+		}
+	}
+	lists := readDoc(t, "{grid}")
+	for what, x := range map[string]impl.Value{"a number": {Kind: impl.IsList, Num: 1}, "a text": {Kind: impl.IsList, Text: "a"}, "names": {Kind: impl.IsList, Names: []string{"a"}}} {
+		for _, v := range []impl.Value{tree("grid", x), tree("grid", impl.Value{Kind: impl.IsList, List: []impl.Value{x}})} {
+			if impl.ShapeOk(list, lists, "", vars, v) {
+				t.Errorf("a list with %s is ok", what)
+			}
 		}
 	}
 }
