@@ -134,19 +134,20 @@ func (b *byHand) ofField(n impl.Node, f impl.Field, x asked, path string) impl.V
 		return b.wrong(path, impl.ErrArgs)
 	}
 	v := impl.StoreGet(b.nodes, n.Id, f.Name)
-	if first, _ := impl.TreeGet(args, "first"); first.Kind == impl.IsNum && first.Num >= 0 && v.Kind == impl.IsList {
+	if first, _ := member(args, "first"); first.Kind == impl.IsNum && first.Num >= 0 && v.Kind == impl.IsList {
 		v.List = v.List[:min(first.Num, len(v.List))]
 	}
-	if b.change && n.Type == "Mutation" && f.Name == "set" {
+	given := slices.Contains(args.Names, "id") && slices.Contains(args.Names, "cell") && slices.Contains(args.Names, "value")
+	if b.change && n.Type == "Mutation" && f.Name == "set" && given {
 		v = b.set(args)
 	}
 	return b.byType(v, f.Type, x.sels, path)
 }
 
 func (b *byHand) set(args impl.Value) impl.Value {
-	id, _ := impl.TreeGet(args, "id")
-	cell, _ := impl.TreeGet(args, "cell")
-	v, _ := impl.TreeGet(args, "value")
+	id, _ := member(args, "id")
+	cell, _ := member(args, "cell")
+	v, _ := member(args, "value")
 	if id.Kind != impl.IsNum || cell.Kind != impl.IsText {
 		return null()
 	}

@@ -174,13 +174,13 @@ func takes(t *testing.T, args string, given string, vars string, want string) {
 	list, asked, v := fieldWith(t, args), givesOf(t, given), readValue(t, vars)
 	f := list[0].Fields[0]
 	got, ok := impl.ArgsOf(list, f, asked, v)
-	if !ok || impl.JsonPut(got) != want {
-		t.Errorf("(%s) given (%s) by %s: %s, %v", args, given, vars, impl.JsonPut(got), ok)
+	if !ok || written(got) != want {
+		t.Errorf("(%s) given (%s) by %s: %s, %v", args, given, vars, written(got), ok)
 		return
 	}
 	for _, a := range f.Args {
-		within, ok := impl.TreeGet(got, a.Name)
-		if !ok && (a.Has || a.Type.Must) || ok && !impl.ValueFits(list, a.Type, within) {
+		within, ok := member(got, a.Name)
+		if !ok && (a.Has || a.Type.Must) || ok && !(giver{list: list}).fits(a.Type, within) {
 			t.Errorf("(%s) given (%s) by %s: %s is %v", args, given, vars, a.Name, within)
 		}
 	}
@@ -311,7 +311,7 @@ func TestArgsOfOthers(t *testing.T) {
 		"an Else that is a variable": with(func(f *impl.Field) { f.Args[1].Else = named("v") }), "an Else that is a word": with(func(f *impl.Field) { f.Args[1].Else = word("A") }), "five": with(func(f *impl.Field) {
 			f.Args = append(f.Args, arg(t, "c", "Int"), arg(t, "d", "Int"), arg(t, "e", "Int"))
 		}),
-		"a type that is not there": with(func(f *impl.Field) { f.Args[0].Type.Name = "None" }), "an object": with(func(f *impl.Field) { f.Args[0].Type.Name = "Query" }), "nothing of an object": with(func(f *impl.Field) { f.Args[1].Type.Name, f.Args[1].Else = "Query", null() })} {
+		"a type that is not there": with(func(f *impl.Field) { f.Args[0].Type.Name = "None" }), "an object": with(func(f *impl.Field) { f.Args[0].Type.Name = "Query" }), "a union": with(func(f *impl.Field) { f.Args[0].Type.Name = "U" }), "a list of objects": with(func(f *impl.Field) { f.Args[0].Type = mustType(t, "[Query]") })} {
 		none(what, list, x, asked, vars)
 	}
 	for what, x := range map[string]impl.Field{"an Else that does not fit, where something is given": with(func(f *impl.Field) { f.Args[0].Has, f.Args[0].Else = true, text("x") }), "another name and type of the field": with(func(f *impl.Field) { f.Name, f.Type = "", impl.Type{} }), "an argument more of a type that is not there, not given": with(func(f *impl.Field) { f.Args = append(f.Args, arg(t, "c", "None")) })} {
@@ -319,16 +319,15 @@ func TestArgsOfOthers(t *testing.T) {
 			t.Errorf("%s: %v, %v", what, got, ok)
 		}
 	}
+	for _, name := range []string{"Query", "U", "None"} {
+		x := with(func(f *impl.Field) { f.Args[1].Type.Name, f.Args[1].Else = name, null() })
+		if got, ok := impl.ArgsOf(list, x, asked, vars); !ok || !alike(got, tree("a b", num(1), null())) {
+			t.Errorf("nothing of %s: %v, %v", name, got, ok)
+		}
+	}
 	if got, ok := impl.ArgsOf(list, impl.Field{}, asked, vars); !ok || !alike(got, tree("")) {
 		t.Errorf("no arguments: %v, %v", got, ok)
 	}
-}
-
-// P23: what would be too deep to be asked by its names is not told.
-func TestArgsOfAsDeepAsMayBe(t *testing.T) {
-	takes(t, "i:In", "i:{a:1,c:{a:1,c:$v}}", `{"v":{"a":1,"c":{"a":1}}}`, `{"i":{"a":1,"c":{"a":1,"c":{"a":1,"c":{"a":1}}}}}`)
-	takesNone(t, "i:In", "i:{a:1,c:{a:1,c:$v}}", `{"v":{"a":1,"c":{"a":1,"c":{"a":1}}}}`, `{"v":{"a":1,"c":{"a":1,"b":"x"}}}`)
-	takesNone(t, "i:[[In]]", "i:[[$v]]", `{"v":{"a":1,"c":{"a":1,"c":{"a":1}}}}`)
 }
 
 // P22, P23: what is handed in stays as it was, also behind its end.

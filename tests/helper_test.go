@@ -33,6 +33,21 @@ func tree(names string, within ...impl.Value) impl.Value {
 	return impl.Value{Kind: impl.IsTree, Names: strings.Fields(names), List: within}
 }
 
+// member is what a name of a tree leads to, however deep the tree is.
+func member(v impl.Value, name string) (impl.Value, bool) {
+	i := slices.Index(v.Names, name)
+	if v.Kind != impl.IsTree || i < 0 {
+		return impl.Value{}, false
+	}
+	return v.List[i], true
+}
+
+// written is the text of a value, however deep it is.
+func written(v impl.Value) string {
+	s := strings.TrimPrefix(impl.AnswerPut(impl.Answer{Data: v}), `{"data":`)
+	return strings.TrimSuffix(s, "}")
+}
+
 // nested puts a value into so many lists.
 func nested(v impl.Value, times int) impl.Value {
 	for range times {

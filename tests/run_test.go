@@ -482,7 +482,6 @@ func TestRunOfChanges(t *testing.T) {
 	w.changes(t, `mutation{set(id:2,cell:"age",value:5){...on P{name age}}}`, "{}", `{"set":{"name":"ann","age":5}}`, "", set(2, "age", num(5)).nodes)
 	w.changes(t, `mutation{set(id:7,cell:"new",value:5){...on P{name age}}}`, "{}", `{"set":{"name":"bob","age":null}}`, "", set(7, "new", num(5)).nodes)
 	w.changes(t, `mutation{set(id:2,cell:"age",value:null){...on P{age}}}`, "{}", `{"set":{"age":null}}`, "", set(2, "age", null()).nodes)
-	w.changes(t, `mutation{set(id:2,cell:"age"){...on P{age}}}`, "{}", `{"set":{"age":null}}`, "", set(2, "age", null()).nodes)
 	w.changes(t, `mutation($i:Int!,$c:String!,$v:Int){x:set(id:$i,cell:$c,value:$v){...on P{age}}}`, `{"i":2,"c":"age","v":6}`, `{"x":{"age":6}}`, "", set(2, "age", num(6)).nodes)
 	w.changes(t, `mutation{set(id:2,cell:"name",value:5){...on P{name}}}`, "{}", `{"set":null}`, "set.name:1", set(2, "name", num(5)).nodes)
 	w.changes(t, `mutation{set(id:6,cell:"age",value:5){__typename}}`, "{}", `{"set":null}`, "set:1", set(6, "age", num(5)).nodes)
@@ -507,13 +506,10 @@ func TestRunOfChangesThatAreNotDone(t *testing.T) {
 	w = must("id:ID,cell:K,value:In")
 	w.changes(t, `mutation{set(id:0,cell:n,value:null){n}}`, "{}", `{"set":{"n":null}}`, "", w.with(t, 0, "n", "null").nodes)
 	w.changes(t, `mutation{set(id:0,cell:m,value:{b:{}}){n}}`, "{}", `{"set":{"n":1}}`, "", w.with(t, 0, "m", `{"b":{}}`).nodes)
-	w.changes(t, `mutation{set(id:"0",cell:n){n} n}`, "{}", `null`, "set:2", w.nodes)
-	w.changes(t, `mutation{set(id:null,cell:n){n} n}`, "{}", `null`, "set:2", w.nodes)
-	w.changes(t, `mutation{set(cell:n){n} n}`, "{}", `null`, "set:2", w.nodes)
-	w.changes(t, `mutation{set(id:0,cell:null){n} n}`, "{}", `null`, "set:2", w.nodes)
-	w.changes(t, `mutation{set(id:0){n} n}`, "{}", `null`, "set:2", w.nodes)
-	w.changes(t, `mutation{set(id:5,cell:n){n} n}`, "{}", `null`, "set:2", w.nodes)
-	w.changes(t, `mutation{set(id:0,cell:n,value:{a:1}){n} n}`, "{}", `null`, "set:2", w.nodes)
+	for _, args := range []string{`id:"0",cell:n,value:null`, `id:null,cell:n,value:null`, `id:0,cell:null,value:null`, `id:5,cell:n,value:null`, `id:-1,cell:n,value:null`, `id:0,cell:n,value:{a:1}`} {
+		w.changes(t, `mutation{set(`+args+`){n} n}`, "{}", `null`, "set:2", w.nodes)
+	}
+	w.changes(t, `mutation($v:In){set(id:0,cell:n,value:{b:{b:$v}}){n} n}`, `{"v":{"b":{"b":{}}}}`, `null`, "set:2", w.nodes)
 	w = must("id:Int,cell:Int,value:Int")
 	w.changes(t, `mutation{set(id:0,cell:1,value:1){n} n}`, "{}", `null`, "set:2", w.nodes)
 	w = must("id:[Int],cell:String,value:Int")
@@ -521,6 +517,47 @@ func TestRunOfChangesThatAreNotDone(t *testing.T) {
 	w = must("id:Int!=0,cell:String!=\"n\",value:[Int!]=[5]")
 	w.changes(t, `mutation($i:Int){set(id:$i){n} n}`, `{"i":null}`, `null`, "set:3", w.nodes)
 	w.changes(t, `mutation($i:Int){x:set(id:$i){n} n}`, `{}`, `{"x":{"n":null},"n":2}`, "x.n:1", w.with(t, 0, "n", "[5]").nodes)
+}
+
+// P24: what nobody gave, and is not by itself, is no argument: without all three of them no cell is set, and set is the node's cell.
+func TestRunOfSetWithoutAll(t *testing.T) {
+	w := runWorld(t).with(t, 1, "set", `{"ref":7}`)
+	set := w.with(t, 2, "age", "5")
+	w.changes(t, `mutation{set(id:2,cell:"age"){...on P{name age}} me{age}}`, "{}", `{"set":{"name":"bob","age":null},"me":{"age":30}}`, "", w.nodes)
+	w.changes(t, `mutation($v:Int){set(id:2,cell:"age",value:$v){...on P{name}} me{age}}`, "{}", `{"set":{"name":"bob"},"me":{"age":30}}`, "", w.nodes)
+	w.changes(t, `mutation($v:Int){set(id:2,cell:"age",value:$v){...on P{name}} me{age}}`, `{"w":5}`, `{"set":{"name":"bob"},"me":{"age":30}}`, "", w.nodes)
+	w.changes(t, `mutation($v:Int){set(id:2,cell:"age",value:$v){...on P{name}} me{age}}`, `{"v":null}`, `{"set":{"name":"ann"},"me":{"age":null}}`, "", w.with(t, 2, "age", "null").nodes)
+	w.changes(t, `mutation($v:Int){set(id:2,cell:"age",value:$v){...on P{name}} me{age}}`, `{"v":5}`, `{"set":{"name":"ann"},"me":{"age":5}}`, "", set.nodes)
+	w.changes(t, `mutation($v:Int=5){set(id:2,cell:"age",value:$v){...on P{name}} me{age}}`, `{}`, `{"set":{"name":"ann"},"me":{"age":5}}`, "", set.nodes)
+	w.changes(t, `mutation($v:Int=null){set(id:2,cell:"age",value:$v){...on P{name}} me{age}}`, `{}`, `{"set":{"name":"ann"},"me":{"age":null}}`, "", w.with(t, 2, "age", "null").nodes)
+	w.changes(t, `mutation($v:Int){a:set(id:2,cell:"age",value:5){...on P{age}} b:set(id:2,cell:"age",value:$v){...on P{name}} me{age}}`, `{}`, `{"a":{"age":5},"b":{"name":"bob"},"me":{"age":5}}`, "", set.nodes)
+	none := runWorld(t)
+	none.nodes[1].Cells = readValue(t, `{"n":1,"me":{"ref":2}}`)
+	none.changes(t, `mutation{n set(id:2,cell:"age"){...on P{age}} me{age}}`, "{}", `{"n":1,"set":null,"me":{"age":30}}`, "", none.nodes)
+}
+
+// P24: the same of each of the three, with values by themselves, and of lists.
+func TestRunOfSetByItself(t *testing.T) {
+	of := func(args string, typ string, cell string) world {
+		return world{readSchema(t, "type Query{n:Int} type Mutation{set("+args+"):"+typ+"}"), []impl.Node{node(t, 0, "Query", `{"n":1}`), node(t, 1, "Mutation", cell)}}
+	}
+	w := of("id:Int,cell:String,value:Int", "Query!", `{"set":{"ref":0}}`)
+	for _, args := range []string{"", `(id:0)`, `(cell:"n")`, `(value:5)`, `(id:0,cell:"n")`, `(id:0,value:5)`, `(cell:"n",value:5)`, `(id:9,cell:"n")`, `(id:null,cell:null)`} {
+		w.changes(t, `mutation{set`+args+`{n}}`, "{}", `{"set":{"n":1}}`, "", w.nodes)
+	}
+	w.changes(t, `mutation($i:Int,$c:String){set(id:$i,cell:$c,value:5){n}}`, `{"i":0}`, `{"set":{"n":1}}`, "", w.nodes)
+	w.changes(t, `mutation($i:Int,$c:String){set(id:$i,cell:$c,value:5){n}}`, `{"c":"n"}`, `{"set":{"n":1}}`, "", w.nodes)
+	w.changes(t, `mutation($i:Int,$c:String){set(id:$i,cell:$c,value:5){n}}`, `{"i":0,"c":"n"}`, `{"set":{"n":5}}`, "", w.with(t, 0, "n", "5").nodes)
+	w = of("id:Int,cell:String,value:Int", "Query!", `{}`)
+	w.changes(t, `mutation{set(id:0,cell:"n"){n}}`, "{}", `null`, "set:2", w.nodes)
+	w = of("id:Int=0,cell:String=\"n\",value:Int=5", "Query", `{}`)
+	w.changes(t, `mutation{set{n}}`, "{}", `{"set":{"n":5}}`, "", w.with(t, 0, "n", "5").nodes)
+	w.changes(t, `mutation($v:Int){set(value:$v){n}}`, "{}", `{"set":{"n":5}}`, "", w.with(t, 0, "n", "5").nodes)
+	w = of("id:Int=0,cell:String=\"n\",value:Int=null", "Query", `{}`)
+	w.changes(t, `mutation{set{n}}`, "{}", `{"set":{"n":null}}`, "", w.with(t, 0, "n", "null").nodes)
+	w = of("id:Int,cell:String,value:Int,first:Int", "[Int]", `{"set":[1,2,3]}`)
+	w.changes(t, `mutation{set(id:0,cell:"n",first:2)}`, "{}", `{"set":[1,2]}`, "", w.nodes)
+	w.changes(t, `mutation{set(id:0,cell:"n",first:2,value:5)}`, "{}", `{"set":null}`, "set:1", w.with(t, 0, "n", "5").nodes)
 }
 
 // P24: changes are done in order, each ahead of what is behind it, once under each name.

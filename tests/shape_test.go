@@ -194,7 +194,7 @@ func TestRunOfVeryManyThatMustBeThere(t *testing.T) {
 	if code != impl.RunFine || a.Data.Kind != impl.IsNull || errorsPut(a.Errs) != strings.Join(ways, " ") {
 		t.Errorf("%d: %v, %s", code, a.Data.Kind, errorsPut(a.Errs))
 	}
-	set := impl.Sel{Kind: impl.SelField, Name: "set", Args: []impl.Give{{Name: "id", Value: num(0)}, {Name: "cell", Value: text("a")}}}
+	set := impl.Sel{Kind: impl.SelField, Name: "set", Args: []impl.Give{{Name: "id", Value: num(0)}, {Name: "cell", Value: text("a")}, {Name: "value", Value: null()}}}
 	d.Ops[0] = impl.Op{Change: true, Sels: []impl.Sel{field("q", spread("H")), set, under("p", field("q", spread("H")))}}
 	after, a, code := impl.Run(fine, nodes, d, "", tree(""))
 	if code != impl.RunFine || a.Data.Kind != impl.IsNull || len(a.Errs) != impl.ErrMax || a.Errs[0].Path != "q.0.a.a.a.a.a.leafa" || !alike(after[0].Cells, tree("q b a", impl.RefTo(0), num(2), null())) {
