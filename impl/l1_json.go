@@ -251,6 +251,10 @@ func isName(text string) bool {
 	return true
 }
 
+func isNameOrNone(text string) bool {
+	return text == "" || isName(text)
+}
+
 func isFigure(c byte) bool {
 	return '0' <= c && c <= '9'
 }

@@ -1,13 +1,16 @@
 package tests
 
 import (
+	"fmt"
+	"math/rand"
+	"slices"
 	"strings"
 	"testing"
 
 	"loop.example/pergola/impl"
 )
 
-// P24: how answers are written: values of each kind, whatever the limits are.
+// P33: how answers are written: values of each kind, whatever the limits are.
 func TestAnswerPut(t *testing.T) {
 	for want, v := range map[string]impl.Value{"null": null(), "true": yes(true), "false": yes(false), "7": num(7), "-7": num(-7), `"a\"\\\n\u0001"`: text("a\"\\\n\x01"), "[]": list(), "{}": tree(""), `[1,[2,"x"],{}]`: list(num(1), list(num(2), text("x")), tree("")),
 		`{"b":{"a":[null]},"a":2}`: tree("b a", tree("a", list(null())), num(2)), "[[[[[[[[1]]]]]]]]": nested(num(1), 8), "9000000000": num(9000000000), `"` + strings.Repeat("x", 100) + `"`: text(strings.Repeat("x", 100)),
@@ -23,7 +26,7 @@ func TestAnswerPut(t *testing.T) {
 	}
 }
 
-// P24: how errors are written.
+// P33: how errors are written.
 func TestAnswerPutOfErrors(t *testing.T) {
 	for want, errs := range map[string][]impl.Err{"": {}, `,"errors":[{"path":"a.0.b","code":2}]`: {{Path: "a.0.b", Code: 2}}, `,"errors":[{"path":"","code":0},{"path":"a\"\\\u00ff","code":-12}]`: {{}, {Path: "a\"\\\xff", Code: -12}},
 		`,"errors":[` + strings.TrimSuffix(strings.Repeat(`{"path":"a","code":1},`, 30), ",") + "]": times(30, impl.Err{Path: "a", Code: 1}), `,"errors":[{"path":"` + strings.Repeat("x", 100) + `","code":3}]`: {{Path: strings.Repeat("x", 100), Code: 3}}} {
@@ -33,7 +36,7 @@ func TestAnswerPutOfErrors(t *testing.T) {
 	}
 }
 
-// P24: how values that are not ok are written.
+// P33: how values that are not ok are written.
 func TestAnswerPutOfOthers(t *testing.T) {
 	for want, v := range map[string]impl.Value{"[null,null,null,null]": list(named("a"), word("a"), impl.Value{Kind: 8}, impl.Value{Kind: -1, Num: 5}), "[false,false,true]": list(impl.Value{Kind: impl.IsBool, Num: 2}, impl.Value{Kind: impl.IsBool, Num: -1}, impl.Value{Kind: impl.IsBool, Num: 1, Text: "x"}),
 		`{"a":1,"":2,"":3}`: tree("a", many(4)[1:]...), `{"a":0}`: tree("a b", num(0)), `{"":0}`: tree("", num(0)), `{"a":0,"a":1,"1 b":2}`: {Kind: impl.IsTree, Names: []string{"a", "a", "1 b"}, List: many(3)}, "null": {Num: 5, Text: "x", List: many(1)}, "5": {Kind: impl.IsNum, Num: 5, Text: "x", List: many(1), Names: []string{"a"}},
@@ -44,7 +47,7 @@ func TestAnswerPutOfOthers(t *testing.T) {
 	}
 }
 
-// P24: values that are very deep, and that hold themselves, have an end; a list that is there twice is written twice.
+// P33: values that are very deep, and that hold themselves, have an end; a list that is there twice is written twice.
 func TestAnswerPutHasAnEnd(t *testing.T) {
 	const deep = 1 << 20
 	if got := impl.AnswerPut(impl.Answer{Data: nested(num(1), deep)}); got != `{"data":`+strings.Repeat("[", deep)+"1"+strings.Repeat("]", deep)+"}" {
@@ -76,7 +79,7 @@ func sessionNodes(t *testing.T) []impl.Node {
 		node(t, 2, "Person", `{"name":"ann","age":30,"pet":{"ref":4},"friends":[{"ref":3},null],"kind":"CAT"}`), node(t, 3, "Person", `{"name":"bob","age":"old","friends":[{"ref":2},{"ref":9}]}`), node(t, 4, "Pet", `{"name":"rex","owner":{"ref":2}}`)}
 }
 
-// P24: the example of chapter 7, question by question, each of the nodes that the one ahead left.
+// P32: the example of chapter 7, question by question, each of the nodes that the one ahead left.
 func TestAskOfTheExample(t *testing.T) {
 	list, nodes := readSchema(t, sessionSchema), sessionNodes(t)
 	for _, c := range []struct{ name, given, doc, want string }{
@@ -117,7 +120,7 @@ func refused(t *testing.T, what string, list []impl.Def, nodes []impl.Node, name
 	isNew(t, what, after, nodes)
 }
 
-// P24: each error of Ask, and of two the first; nodes are as they are, whatever they are.
+// P32: each error of Ask, and of two the first; nodes are as they are, whatever they are.
 func TestAskRefuses(t *testing.T) {
 	list, nodes := readSchema(t, sessionSchema), sessionNodes(t)
 	server, form := `{"error":"server","code":0}`, `{"error":"form","code":0}`
@@ -155,7 +158,7 @@ func TestAskRefuses(t *testing.T) {
 	refused(t, "no root", readSchema(t, "type Query{n:Int}"), nodes[:1], "", "mutation{n}", "", `{"error":"check","code":8}`)
 }
 
-// P24: the empty text is an empty tree; blanks around do not matter.
+// P32: the empty text is an empty tree; blanks around do not matter.
 func TestAskOfTexts(t *testing.T) {
 	list, nodes := readSchema(t, sessionSchema), sessionNodes(t)
 	for _, given := range []string{"", "{}", " { } ", `{"x":1}`} {
@@ -170,7 +173,7 @@ func TestAskOfTexts(t *testing.T) {
 	}
 }
 
-// P24: nodes that are not ok are handed back as they are, also if they hold themselves, or are far too many.
+// P32: nodes that are not ok are handed back as they are, also if they hold themselves, or are far too many.
 func TestAskOfNodesThatHoldThemselves(t *testing.T) {
 	fine := readSchema(t, sessionSchema)
 	for i, v := range []impl.Value{ring(1, 2, 3), endless(1), endless(12), twofold(num(1), 200), nested(num(1), 1<<17), tree("a b", ring(1), ring(2, 3)), list(twofold(num(1), 3), ring(1, 2), num(5)), list(make([]impl.Value, 1<<20)...)} {
@@ -197,5 +200,114 @@ func TestAskOfNodesThatHoldThemselves(t *testing.T) {
 	isNew(t, "lists with room", after, wide)
 	if !stays() {
 		t.Error("an argument was written to")
+	}
+}
+
+// askByHand is Ask, just as the document says it, by what stands ahead of chapter 7, and by AnswerPut.
+func askByHand(list []impl.Def, nodes []impl.Node, name, doc, given string) ([]impl.Node, string) {
+	no := func(word string, code int) string { return fmt.Sprintf(`{"error":"%s","code":%d}`, word, code) }
+	for _, n := range nodes {
+		if !slices.ContainsFunc(list, func(d impl.Def) bool { return d.Name == n.Type && d.Kind == impl.DefObject }) {
+			return nodes, no("server", 0)
+		}
+	}
+	if impl.SchemaCheck(list) != impl.SchemaFine || !impl.StoreOk(nodes) {
+		return nodes, no("server", 0)
+	}
+	v, ok := impl.JsonGet(given)
+	if given == "" {
+		v, ok = tree(""), true
+	}
+	d, read := impl.DocGet(doc)
+	if !read || !ok || v.Kind != impl.IsTree {
+		return nodes, no("form", 0)
+	}
+	if code := impl.DocCheck(list, d); code != impl.DocFine {
+		return nodes, no("check", code)
+	}
+	after, a, code := impl.Run(list, nodes, d, name, v)
+	if code != impl.RunFine {
+		return nodes, no("run", code)
+	}
+	return after, impl.AnswerPut(a)
+}
+
+// P32: questions of all kinds, right and wrong ones, are answered as by hand, or leave nodes.
+func TestAskByHand(t *testing.T) {
+	fine := readSchema(t, runSchema)
+	a := rightAsker{rand.New(rand.NewSource(32)), pairerOf(fine)}
+	begins, found := []string{`{"data"`, `{"error":"server"`, `{"error":"form"`, `{"error":"check"`, `{"error":"run"`}, map[string]int{}
+	for range 3000 {
+		d, nodes := a.ask(t), anyNodes(a.Rand, a.pairer)
+		doc, given := impl.DocPut(d), []string{"", "{}", `{"i":1,"k":"B","l":[1],"b":true}`, `{"b":true,"i":"x"}`, "[]", "{"}[a.Intn(6)]
+		if a.Intn(8) == 0 {
+			nodes[a.Intn(len(nodes))].Type = []string{"P", "T", "K", "1", "None"}[a.Intn(5)]
+		}
+		if i := a.Intn(len(doc)); a.Intn(3) == 0 {
+			doc = doc[:i] + string(" {}n:$("[a.Intn(7)]) + doc[i+1:]
+		}
+		for _, name := range []string{"", d.Ops[a.Intn(len(d.Ops))].Name, "zz"} {
+			want, wantTold := askByHand(fine, nodes, name, doc, given)
+			after, told := impl.Ask(fine, nodes, name, doc, given)
+			if told != wantTold || !equal(after, want) || strings.HasPrefix(told, `{"error"`) && !equal(after, nodes) {
+				t.Fatalf("%s by %q of %q:\n%s, not\n%s", doc, name, given, told, wantTold)
+			}
+			isNew(t, doc, after, nodes)
+			for _, begin := range begins {
+				if strings.HasPrefix(told, begin) {
+					found[begin]++
+				}
+			}
+		}
+	}
+	for _, begin := range begins {
+		if found[begin] < 200 {
+			t.Errorf("%s: %d", begin, found[begin])
+		}
+	}
+}
+
+// P42: a document, and what it is given, that are written are answered as they are, as long as both may be.
+func TestAskOfWhatIsWritten(t *testing.T) {
+	p, questions := someQuestions(t, 1000)
+	found := map[string]int{}
+	for _, q := range questions {
+		doc, given := impl.DocPut(q.doc), impl.JsonPut(q.given)
+		after, told := impl.Ask(p.list, q.nodes, q.op.Name, doc, given)
+		if len(doc) > impl.DocMax {
+			if told != `{"error":"form","code":0}` || !equal(after, q.nodes) {
+				t.Errorf("%d bytes: %s", len(doc), told)
+			}
+			found["too long"]++
+			continue
+		}
+		want, a := q.run(t, p.list)
+		if told != impl.AnswerPut(a) || !equal(after, want) {
+			t.Errorf("%s of %s: %s, not %s", doc, given, told, impl.AnswerPut(a))
+		}
+		found["asked"]++
+		if !equal(after, q.nodes) {
+			found["changed"]++
+		}
+	}
+	if found["asked"] < 800 || found["changed"] < 15 {
+		t.Errorf("too few: %v", found)
+	}
+}
+
+// P33: an answer begins with its data, and ends there just if there are no errors.
+func TestAnswerPutIsData(t *testing.T) {
+	someErrs := [][]impl.Err{nil, {}, {{}}, {{Path: "a.0", Code: 1}}, {{Path: "a", Code: 2}, {Path: "\"\\\n\t\x00\x1f\x7f\xff~", Code: -3}, {Path: "}", Code: 9000000000}}, times(impl.ErrMax+1, impl.Err{Path: "x", Code: 3})}
+	texts := []string{"", "", `{"path":"","code":0}`, `{"path":"a.0","code":1}`, `{"path":"a","code":2},{"path":"\"\\\n\u0009\u0000\u001f\u007f\u00ff~","code":-3},{"path":"}","code":9000000000}`, strings.TrimSuffix(strings.Repeat(`{"path":"x","code":3},`, impl.ErrMax+1), ",")}
+	for _, v := range someValues() {
+		for i, errs := range someErrs {
+			want := `{"data":` + impl.JsonPut(v)
+			if len(errs) > 0 {
+				want += `,"errors":[` + texts[i] + "]"
+			}
+			if got := impl.AnswerPut(impl.Answer{Data: v, Errs: errs}); got != want+"}" {
+				t.Fatalf("%s, not %s}", got, want)
+			}
+		}
 	}
 }
