@@ -328,15 +328,17 @@ func (f treeForm) value() Value {
 
 // formWithin is what a name of a form leads to, if it is a tree and has it.
 func formWithin(f form, name string) (form, bool) {
-	switch x := f.(type) {
-	case treeForm:
-		for _, b := range x {
-			if b.name == name {
-				return b.form, true
-			}
-		}
+	tree, _ := f.(treeForm)
+	i := tree.indexOf(name)
+	if i < 0 {
+		return nil, false
 	}
-	return nil, false
+	return tree[i].form, true
+}
+
+// indexOf is the place of a name; below 0, if the tree has it not.
+func (f treeForm) indexOf(name string) int {
+	return slices.IndexFunc(f, func(b branch) bool { return b.name == name })
 }
 
 // formOf is the form of a value that fits in so many, with variables and words if it is of a question, and whether it does.
