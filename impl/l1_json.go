@@ -454,7 +454,6 @@ func writeAll[T any](b *strings.Builder, brackets string, between string, list [
 
 // writeText writes a text byte by byte: it need not be letters of any alphabet.
 func writeText(b *strings.Builder, text string) {
-	const figures = "0123456789abcdef"
 	b.WriteByte('"')
 	for i := range len(text) {
 		switch c := text[i]; {
@@ -465,13 +464,19 @@ func writeText(b *strings.Builder, text string) {
 			b.WriteString("\\n")
 		case c < 32 || c > 126:
 			b.WriteString("\\u00")
-			b.WriteByte(figures[c>>4])
-			b.WriteByte(figures[c&15])
+			writeFigures(b, c)
 		default:
 			b.WriteByte(c)
 		}
 	}
 	b.WriteByte('"')
+}
+
+// writeFigures writes a byte as two of sixteen figures.
+func writeFigures(b *strings.Builder, c byte) {
+	const figures = "0123456789abcdef"
+	b.WriteByte(figures[c>>4])
+	b.WriteByte(figures[c&15])
 }
 
 // jsonReader is a text, and up to where it is read.

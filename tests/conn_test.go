@@ -436,20 +436,26 @@ func TestConnFeedOfVeryMany(t *testing.T) {
 // P29, P43: many connections at a time are told what one is; when they are told, nobody works on for them.
 func TestConnFeedAtATime(t *testing.T) {
 	fine, nodes := readSchema(t, sessionSchema), sessionNodes(t)
-	before := runtime.NumGoroutine()
 	c := impl.ConnNew(nodes)
 	for what, text := range someStreams() {
 		want, wantTold := impl.ConnFeed(fine, c, text)
-		var all sync.WaitGroup
-		for range 20 {
-			all.Go(func() {
-				if got, told := impl.ConnFeed(fine, c, text); told != wantTold || !equal(got, want) {
-					t.Errorf("%s: told %q, not %q", what, told, wantTold)
-				}
-			})
-		}
-		all.Wait()
+		atATime(t, func() {
+			if got, told := impl.ConnFeed(fine, c, text); told != wantTold || !equal(got, want) {
+				t.Errorf("%s: told %q, not %q", what, told, wantTold)
+			}
+		})
 	}
+}
+
+// atATime does the same many times at a time; behind that nobody works on for it.
+func atATime(t *testing.T, do func()) {
+	t.Helper()
+	before := runtime.NumGoroutine()
+	var all sync.WaitGroup
+	for range 20 {
+		all.Go(do)
+	}
+	all.Wait()
 	for wait := 0; runtime.NumGoroutine() > before && wait < 100; wait++ {
 		time.Sleep(10 * time.Millisecond)
 	}
