@@ -306,7 +306,7 @@ func TestCacheByHand(t *testing.T) {
 	r := rand.New(rand.NewSource(76))
 	questions, changes := seen(), changing()
 	found := map[string]int{}
-	for range 60 {
+	for range 40 {
 		var c impl.Cache
 		nodes, some := first, 2+r.Intn(8)
 		for range 40 {

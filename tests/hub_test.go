@@ -281,8 +281,8 @@ func TestHubOkOfAWrongServer(t *testing.T) {
 func TestHubAdd(t *testing.T) {
 	for count := range impl.WatchMax + 1 {
 		list, h := hubOf(t, seen()[2:2+count]...)
-		for _, q := range seen() {
-			for id := -2; id < 12; id++ {
+		for i, q := range seen() {
+			for id := -2 + i%2; id < 12; id += 2 - count%2 {
 				x, told, ok := hubAdds(t, list, h, id, q)
 				if ok != (count < impl.WatchMax && id >= 0 && (id%2 > 0 || id >= 2*count)) || ok && (told != answered(list, h.Nodes, q) || !impl.HubOk(list, x)) || !ok && (told != "" || !equal(x, h)) {
 					t.Errorf("%d, %q, to %d: %s, %v", id, q, count, told, ok)
@@ -461,7 +461,7 @@ func TestHubByHand(t *testing.T) {
 	r := rand.New(rand.NewSource(77))
 	questions := append(seen(), said{"", "{all{name}}", ""}, said{"", "{words n}", ""}, said{"", "{find(id:1){... on Pet{name owner{name age}}}}", ""}, said{"", "{me{friends{age}}}", ""}, said{"", "{me{name}}", ""}, said{"", "{all{age kind}}", ""})
 	found := map[string]int{}
-	for range 50 {
+	for range 25 {
 		h, last := impl.HubNew(sessionNodes(t)), map[int]string{}
 		for range 25 {
 			q, id := questions[r.Intn(len(questions))], r.Intn(8)-1
@@ -512,7 +512,7 @@ func TestHubByHand(t *testing.T) {
 		}
 	}
 	for _, what := range []string{"added", "told", "0", "1", "2", "3", "4", "5"} {
-		if found[what] < 30 {
+		if found[what] < 15 {
 			t.Errorf("too few: %v", found)
 		}
 	}

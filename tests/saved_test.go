@@ -345,7 +345,7 @@ func TestSavedByHand(t *testing.T) {
 	list, nodes := readSchema(t, sessionSchema), sessionNodes(t)
 	r := rand.New(rand.NewSource(75))
 	right, wrong := rightTexts(), wrongTexts()
-	for range 60 {
+	for range 40 {
 		var s impl.Saved
 		var want []string
 		for range 30 {
